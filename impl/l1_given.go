@@ -222,12 +222,42 @@ type Spot struct {
 
 // LiesOk tells whether the net is right and lies has a fitting number for each joint.
 func LiesOk(n Net, lies []int) bool {
-	if NetOk(n) != (Fault{}) || len(lies) != len(n.Joints) {
+	k, ok := trackOf(n)
+	return ok && k.liesFit(lies)
+}
+
+// track is a net that is right, its joints told apart and found by the ends that stand in them.
+type track struct {
+	pieces []Piece
+	shapes []shape
+	stands [][2]int
+}
+
+// trackOf is false for a net that is not right: only a right one has just one joint at each end.
+func trackOf(n Net) (track, bool) {
+	if NetOk(n) != (Fault{}) {
+		return track{}, false
+	}
+	k := track{pieces: n.Pieces, stands: make([][2]int, len(n.Pieces))}
+	for j, joint := range n.Joints {
+		s, ok := shapeOf(joint)
+		if !ok {
+			return track{}, false
+		}
+		k.shapes = append(k.shapes, s)
+		for _, e := range s.ends() {
+			k.stands[e.Piece][e.Side] = j
+		}
+	}
+	return k, true
+}
+
+func (k track) liesFit(lies []int) bool {
+	if len(lies) != len(k.shapes) {
 		return false
 	}
 	for j, lie := range lies {
-		s, ok := shapeOf(n.Joints[j])
-		if !ok || !lieFits(s, lie) {
+		if !lieFits(k.shapes[j], lie) {
 			return false
 		}
 	}
@@ -247,4 +277,54 @@ func lieFits(s shape, lie int) bool {
 		return lie == lieUnknown || lie == lieLeft || lie == lieRight
 	}
 	return lie == lieUnknown
+}
+
+// What bars the way over a joint.
+const (
+	barNone    = 0
+	barBuffer  = 1
+	barUnknown = 2
+	barAgainst = 3
+)
+
+func (k track) jointAt(e End) int { return k.stands[e.Piece][e.Side] }
+
+// over is the end to which one comes over the joint at this end when it lies so, or what bars the way.
+func (k track) over(from End, lie int) (End, int) {
+	switch s := k.shapes[k.jointAt(from)].(type) {
+	case plain:
+		return opposite(from, s.one, s.other), barNone
+	case turnout:
+		return s.over(from, lie)
+	case crossing:
+		if from == s.first || from == s.second {
+			return opposite(from, s.first, s.second), barNone
+		}
+		return opposite(from, s.third, s.fourth), barNone
+	}
+	return End{}, barBuffer
+}
+
+func opposite(from, one, other End) End {
+	if from == one {
+		return other
+	}
+	return one
+}
+
+func (t turnout) over(from End, lie int) (End, int) {
+	if lie == lieUnknown {
+		return End{}, barUnknown
+	}
+	branch := t.left
+	if lie == lieRight {
+		branch = t.right
+	}
+	switch from {
+	case t.tip:
+		return branch, barNone
+	case branch:
+		return t.tip, barNone
+	}
+	return End{}, barAgainst
 }
