@@ -281,10 +281,10 @@ func lieFits(s shape, lie int) bool {
 
 // What bars the way over a joint.
 const (
-	barNone    = 0
-	barBuffer  = 1
-	barUnknown = 2
-	barAgainst = 3
+	barNone = iota
+	barBuffer
+	barUnknown
+	barAgainst
 )
 
 func (k track) jointAt(e End) int { return k.stands[e.Piece][e.Side] }

@@ -145,15 +145,15 @@ func modelSits(n impl.Net, lies []int, t impl.Train) bool {
 	return true
 }
 
-// modelMeet looks for a place: each part has those from From to To.
-func modelMeet(n impl.Net, a, b impl.Train) bool {
+// share looks for a place: each part has those from From to To.
+func share(some, others []impl.Part) bool {
 	places := map[[2]int]bool{}
-	for _, p := range modelBody(n, a) {
+	for _, p := range some {
 		for at := p.From; at <= p.To; at++ {
 			places[[2]int{p.Piece, at}] = true
 		}
 	}
-	for _, p := range modelBody(n, b) {
+	for _, p := range others {
 		for at := p.From; at <= p.To; at++ {
 			if places[[2]int{p.Piece, at}] {
 				return true
@@ -162,6 +162,8 @@ func modelMeet(n impl.Net, a, b impl.Train) bool {
 	}
 	return false
 }
+
+func modelMeet(n impl.Net, a, b impl.Train) bool { return share(modelBody(n, a), modelBody(n, b)) }
 
 // modelPlace adds one piece after the other, until what comes of it is a train.
 func modelPlace(n impl.Net, lies []int, s impl.Spot, long int) (impl.Train, bool) {
